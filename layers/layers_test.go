@@ -44,6 +44,7 @@ var calls = []struct{ name, below string }{
 	{"plan", "api extent image maps parts resize"},
 	{"trim", "api audit disk gpt image plan resize snapshot"},
 	{"rawimage", ""}, // for tests alone: it has the format by itself
+	{"rawguest", ""}, // likewise
 	{"console", "api octet crc extent disk journal tx header refs maps image snapshot audit mbr gpt parts fat fatdir ext extdir resize plan trim"},
 }
 
