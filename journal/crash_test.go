@@ -224,6 +224,44 @@ func TestReplayAgain(t *testing.T) {
 	}
 }
 
+// TestRefusedThenCutOff: an operation is refused, and the power stays; then it goes,
+// at each operation of the Replay. The sign that the Replay sees may not be safe yet.
+func TestRefusedThenCutOff(t *testing.T) {
+	r := rand.New(rand.NewSource(8))
+	for _, s := range scenes() {
+		none, all := s.outside(s.b), s.outside(laid(s.b, s.recs...))
+		for refused := 1; ; refused++ {
+			done := false
+			for stop := 1; ; stop++ {
+				f, j := s.open(t, s.b)
+				f.Refuse(refused)
+				e := j.Commit(s.recs...)
+				if e == api.OK {
+					e = j.Apply(s.recs...)
+				}
+				done = e == api.OK
+				f.Stop(stop)
+				_, e = j.Replay()
+				for _, keep := range choices(f.Waiting(), r) {
+					g, k := s.open(t, f.Crash(keep...))
+					if _, e := k.Replay(); e != api.OK {
+						t.Fatal("Replay:", e)
+					}
+					if got := s.outside(g.Bytes()); !bytes.Equal(got, all) && !bytes.Equal(got, none) {
+						t.Fatalf("%s: operation %d refused, cut off at %d, kept %v: neither all nor none", s.name, refused, stop, keep)
+					}
+				}
+				if e == api.OK {
+					break
+				}
+			}
+			if done {
+				break
+			}
+		}
+	}
+}
+
 // TestEachRefusal: a call answers ErrIO of any of its operations, and stops there.
 func TestEachRefusal(t *testing.T) {
 	recs := []journal.Rec{rec(2000, "abc"), rec(3000, "d")}
