@@ -150,6 +150,13 @@ func (s *scene) cutOff(t *testing.T) {
 		if e == api.OK {
 			break
 		}
+		u.Stop(0) // the file itself stays: the tool may go on with it, too
+		ok(t, u.Recover())
+		at := s.is(t, u.Bytes())
+		s.expects(t, at, n, e)
+		if again := s.is(t, u.Crash()); again != at {
+			t.Fatal(s.what, "what is recovered isn't safe")
+		}
 	}
 	if len(met) != len(s.states) {
 		t.Error(s.what, "not all states were met:", met)
